@@ -1,0 +1,1 @@
+"""Rows of small numbers multiplied: bytes, words, bfloat16."""

@@ -1,0 +1,106 @@
+"""The interface: names, arguments, kinds; nothing changed, kept, printed or brought in."""
+
+import contextlib
+import inspect
+import io
+import unittest
+
+from smallproducts import products
+from support import Unchanging, spread
+
+CALLS = [
+    ("bytes_of", (0, 0, [], [], [])),
+    ("bytes_of", (3, 0, [], [], [1, 2147483648, 4294967295])),
+    ("bytes_of", (2, 3, [0, 127, 255], [128, 255, 1, 0, 127, 2], [2147483647, 4294967295])),
+    ("bytes_of", (8, 50, spread(50, 256, 1), spread(400, 256, 2), spread(8, 2**32, 3))),
+    ("bytes_of", (1025, 0, [], [], [])),
+    ("bytes_of", (1, 4294967295, [], [], [])),
+    ("words", (0, 0, [], [])),
+    ("words", (3, 0, [], [])),
+    ("words", (2, 3, [0, 32767, 65535], [32768, 65535, 1, 0, 32767, 2])),
+    ("words", (8, 50, spread(50, 65536, 4), spread(400, 65536, 5))),
+    ("words", (1025, 0, [], [])),
+    ("words", (1, 65537, [], [])),
+]
+
+PARAMETERS = {
+    "bytes_of": ["rows", "n", "x", "w", "bias"],
+    "words": ["rows", "n", "x", "w"],
+}
+
+
+def copied(arguments):
+    return [list(each) if isinstance(each, list) else each for each in arguments]
+
+
+def guarded(arguments):
+    return [Unchanging(each) if isinstance(each, list) else each for each in arguments]
+
+
+def answer_of(name, arguments):
+    return getattr(products, name)(*arguments)
+
+
+class Interface(unittest.TestCase):
+    def test_parameters(self):
+        for name, parameters in PARAMETERS.items():
+            found = inspect.signature(getattr(products, name)).parameters
+            self.assertEqual(list(found), parameters)
+
+    def test_arguments_by_name(self):
+        for name, arguments in CALLS:
+            named = dict(zip(PARAMETERS[name], arguments, strict=True))
+            self.assertEqual(getattr(products, name)(**named), answer_of(name, arguments))
+
+    def test_kinds(self):
+        for name, arguments in CALLS:
+            answer = answer_of(name, arguments)
+            self.assertIs(type(answer), list)
+            for number in answer:
+                self.assertIs(type(number), int)
+
+    def test_length(self):
+        for name, arguments in CALLS:
+            answer = answer_of(name, arguments)
+            told = 1 if answer[0] == -1 else 1 + arguments[0]
+            self.assertEqual(len(answer), told)
+
+    def test_arguments_stay_the_same(self):
+        for name, arguments in CALLS:
+            handed = copied(arguments)
+            answer_of(name, handed)
+            self.assertEqual(handed, list(arguments))
+
+    def test_arguments_do_not_change_for_a_while(self):
+        for name, arguments in CALLS:
+            self.assertEqual(answer_of(name, guarded(arguments)), answer_of(name, arguments))
+
+    def test_same_answer_again(self):
+        first = [answer_of(name, copied(arguments)) for name, arguments in CALLS]
+        again = [answer_of(name, copied(arguments)) for name, arguments in reversed(CALLS)]
+        self.assertEqual(again[::-1], first)
+
+    def test_answer_is_the_callers_own(self):
+        for name, arguments in CALLS:
+            first = answer_of(name, arguments)
+            kept = list(first)
+            first.append(7)
+            first[0] = 9
+            self.assertEqual(answer_of(name, arguments), kept)
+
+    def test_answer_is_not_an_argument(self):
+        for name, arguments in CALLS:
+            answer = answer_of(name, arguments)
+            for each in arguments:
+                self.assertIsNot(answer, each)
+
+    def test_prints_nothing(self):
+        out, err = io.StringIO(), io.StringIO()
+        with contextlib.redirect_stdout(out), contextlib.redirect_stderr(err):
+            for name, arguments in CALLS:
+                answer_of(name, arguments)
+        self.assertEqual(out.getvalue() + err.getvalue(), "")
+
+
+if __name__ == "__main__":
+    unittest.main()
