@@ -1,4 +1,4 @@
-"""What several tests need: lists that refuse changes, fixed inputs, bits with a sign."""
+"""What several tests need: lists that refuse changes, fixed inputs, numbers and their bits."""
 
 
 def refuse_change(self, *args, **kwargs):
@@ -26,3 +26,8 @@ def spread(count, span, seed):
 def signed(bits, size):
     """The number that size bytes stand for, by Python's own reading of them."""
     return int.from_bytes(bits.to_bytes(size, "big"), "big", signed=True)
+
+
+def bits(number):
+    """The 32 bits of a number with a sign."""
+    return number % 2**32
