@@ -12,6 +12,18 @@ SPAN_16 = 65536
 SPAN_32 = 4294967296
 SPAN_64 = 18446744073709551616
 
+# Singles, by their bits. A sign is 2^31; an exponent of 1 is 2^23, and with a
+# fraction of 0 the least single that is no denormal.
+SIGN = 2147483648
+LEAST_NORMAL = 8388608
+ONE = 1065353216
+INFINITY = 2139095040
+SINGLE_BITS = 24
+QUIET_BIT = 64
+
+# Its lower 31 bits are those of a NaN, so what reads bits takes it for one too.
+NAN = -1
+
 
 def is_refused(rows, n):
     return rows > MOST_ROWS or n > MOST_NUMBERS
@@ -44,6 +56,10 @@ def rounded_quotient(number, s):
 
 def sixteen(lanes):
     return lanes + [0] * (LANES - len(lanes))
+
+
+def is_in(k, j):
+    return (k >> j) % 2 == 1
 
 
 def parts(lane, span):
@@ -119,6 +135,119 @@ def sum_of(k, kind, sums, a, b):
     factors = sixteen(a)
     weights = sixteen(b)
     for j in range(LANES):
-        if (k >> j) % 2 == 1:
+        if is_in(k, j):
             answer[j] = lane_sum(kind, answer[j], factors[j], weights[j])
+    return answer
+
+
+def is_nan(single):
+    return single % SIGN > INFINITY
+
+
+def is_infinite(single):
+    return single % SIGN == INFINITY
+
+
+def is_zero(single):
+    return single % SIGN < LEAST_NORMAL
+
+
+def nearest_multiple(number, unit):
+    # How many units; of two as near the even one. Doubled, as half of 1 is not
+    # whole.
+    count = number // unit
+    rest = 2 * (number % unit)
+    if rest > unit or (rest == unit and count % 2 == 1):
+        return count + 1
+    return count
+
+
+def bfloat16_of(single):
+    upper = single // SPAN_16
+    if is_nan(single):
+        # Without this bit a NaN whose set bits all lie below would become an
+        # infinity.
+        return upper | QUIET_BIT
+    if is_zero(single):
+        return single // SIGN * (SIGN // SPAN_16)
+    # One more past the largest fraction is the next exponent, at last infinity.
+    return nearest_multiple(single, SPAN_16)
+
+
+def short(low, high):
+    singles = sixteen(low) + sixteen(high)
+    answer = []
+    for j in range(LANES):
+        answer.append(bfloat16_of(singles[2 * j]) + SPAN_16 * bfloat16_of(singles[2 * j + 1]))
+    return answer
+
+
+def sign_of_product(p, q):
+    return (p // SIGN + q // SIGN) % 2
+
+
+def exact(single):
+    # A finite single, with its sign, as a whole number of 2^-149.
+    if is_zero(single):
+        return 0
+    size = single % SIGN
+    number = (LEAST_NORMAL + size % LEAST_NORMAL) << (size // LEAST_NORMAL - 1)
+    return -number if single >= SIGN else number
+
+
+def rounded_single(total):
+    # total counts 2^-298, as a product of two that count 2^-149 does, and is not
+    # 0. Past a surplus of 149 the count's unit is that of singles with exponent 1.
+    surplus = max(0, abs(total).bit_length() - SINGLE_BITS)
+    count = nearest_multiple(abs(total), 1 << surplus)
+    # Added, not joined: a count that was rounded up to 2^24 raises the exponent.
+    size = (surplus - 149) * LEAST_NORMAL + count
+    if size < LEAST_NORMAL:
+        size = 0
+    return min(size, INFINITY) + (SIGN if total < 0 else 0)
+
+
+def infinite_sum(single, p, q):
+    # At least one of the three is an infinity and none is a NaN.
+    if not is_infinite(p) and not is_infinite(q):
+        return single
+    if is_zero(p) or is_zero(q):
+        return NAN
+    product = INFINITY + SIGN * sign_of_product(p, q)
+    if is_infinite(single) and single != product:
+        return NAN
+    return product
+
+
+def add_product(single, p, q):
+    # p and q are singles too, those of bfloat16s where a step is taken.
+    if is_nan(single) or is_nan(p) or is_nan(q):
+        return NAN
+    if is_infinite(single) or is_infinite(p) or is_infinite(q):
+        return infinite_sum(single, p, q)
+    # Times ONE a single has the unit of a product.
+    total = exact(single) * exact(ONE) + exact(p) * exact(q)
+    if total == 0:
+        # What cancels has two signs, so where both are negative both are -0.
+        return SIGN * (single // SIGN * sign_of_product(p, q))
+    return rounded_single(total)
+
+
+def take_step(single, p, q):
+    return add_product(single, p * SPAN_16, q * SPAN_16)
+
+
+def take_two_steps(single, x, w, at):
+    # The later pair comes first.
+    single = take_step(single, x[at + 1], w[at + 1])
+    return take_step(single, x[at], w[at])
+
+
+def step(k, sums, a, b):
+    answer = sixteen(sums)
+    factors = sixteen(a)
+    weights = sixteen(b)
+    for j in range(LANES):
+        if is_in(k, j):
+            answer[j] = take_two_steps(answer[j], parts(factors[j], SPAN_16), parts(weights[j], SPAN_16), 0)
     return answer

@@ -33,6 +33,19 @@ CALLS = [
     for k in (0, 1, 32768, 65535)
     for kind in (-1, 0, 1, 2, 3, 4)
     for p, q, r in ((0, 0, 0), (1, 15, 16), (16, 1, 15), (15, 16, 1), (16, 16, 16))
+] + [
+    ("short", (spread(p, 2**32, 10), spread(q, 2**32, 11)))
+    for p in (0, 1, 15, 16)
+    for q in (0, 1, 15, 16)
+] + [
+    ("short", ([0, 0x80000001, 0x3F808000, 0x7F7FFFFF], [0x7F800000, 0x7F800001, 0xFFFFFFFF])),
+] + [
+    ("step", (k, spread(p, 2**32, 12), spread(q, 2**32, 13), spread(r, 2**32, 14)))
+    for k in (0, 1, 32768, 65535)
+    for p, q, r in ((0, 0, 0), (1, 15, 16), (16, 1, 15), (15, 16, 1), (16, 16, 16))
+] + [
+    ("step", (k, [0x3F800000, 0x80000000, 0x7FC00000, 0x7F800000, 1], [0x3F803F80] * 5, [0xC0003F80] * 5))
+    for k in (0, 31, 65535)
 ]
 
 PARAMETERS = {
@@ -40,10 +53,12 @@ PARAMETERS = {
     "words": ["rows", "n", "x", "w"],
     "scale": ["n", "m", "s", "z", "numbers"],
     "sum_of": ["k", "kind", "sums", "a", "b"],
+    "short": ["low", "high"],
+    "step": ["k", "sums", "a", "b"],
 }
 
 # These answer sixteen lanes alone, without a number ahead of them.
-ANSWER_LANES = ("sum_of",)
+ANSWER_LANES = ("sum_of", "short", "step")
 
 
 def copied(arguments):
