@@ -5,6 +5,7 @@ MOST_NUMBERS = 65536
 MOST_SHIFT = 62
 MOST_BYTE = 255
 LANES = 16
+BLOCK = 32
 
 # A span is how many numbers 8, 16, 32 or 64 bits tell apart.
 SPAN_8 = 256
@@ -197,10 +198,10 @@ def exact(single):
 
 def rounded_single(total):
     # total counts 2^-298, as a product of two that count 2^-149 does, and is not
-    # 0. Past a surplus of 149 the count's unit is that of singles with exponent 1.
+    # 0. With a surplus of 149 the count counts 2^-149, as exponent 1 does.
     surplus = max(0, abs(total).bit_length() - SINGLE_BITS)
     count = nearest_multiple(abs(total), 1 << surplus)
-    # Added, not joined: a count that was rounded up to 2^24 raises the exponent.
+    # Added, not joined: a count that is rounded up to 2^24 raises the exponent.
     size = (surplus - 149) * LEAST_NORMAL + count
     if size < LEAST_NORMAL:
         size = 0
@@ -250,4 +251,36 @@ def step(k, sums, a, b):
     for j in range(LANES):
         if is_in(k, j):
             answer[j] = take_two_steps(answer[j], parts(factors[j], SPAN_16), parts(weights[j], SPAN_16), 0)
+    return answer
+
+
+def whole_blocks(numbers):
+    return numbers + [0] * (-len(numbers) % BLOCK)
+
+
+def sums_of_blocks(x, w):
+    # Steps past n are taken too: one with +0 makes a sum of -0 a +0.
+    sums = [0] * LANES
+    for at in range(0, len(x), 2):
+        j = at // 2 % LANES
+        sums[j] = take_two_steps(sums[j], x, w, at)
+    return sums
+
+
+def folded(sums):
+    while len(sums) > 1:
+        half = len(sums) // 2
+        sums = [add_product(sums[j], sums[j + half], ONE) for j in range(half)]
+    return sums[0]
+
+
+def floats(rows, n, x, w):
+    if is_refused(rows, n):
+        return [-1]
+    factors = whole_blocks(x)
+    answer = [0]
+    for i in range(rows):
+        # The row's own weights alone: the next row's begin just behind them.
+        weights = whole_blocks(w[n * i:n * i + n])
+        answer.append(folded(sums_of_blocks(factors, weights)))
     return answer

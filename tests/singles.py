@@ -66,3 +66,10 @@ def stepped(bits, p, q):
         return NAN
     # A float holds the product of two bfloat16s exactly.
     return sum_of_two(number_of(bits), number_of(p << 16) * number_of(q << 16))
+
+
+def added(first, second):
+    """The bits, or -1, of two singles added and rounded as a step is."""
+    if NAN in (first, second):
+        return NAN
+    return sum_of_two(number_of(first), number_of(second))

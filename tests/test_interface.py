@@ -46,6 +46,17 @@ CALLS = [
 ] + [
     ("step", (k, [0x3F800000, 0x80000000, 0x7FC00000, 0x7F800000, 1], [0x3F803F80] * 5, [0xC0003F80] * 5))
     for k in (0, 31, 65535)
+] + [
+    ("floats", (0, 0, [], [])),
+    ("floats", (3, 0, [], [])),
+    ("floats", (0, 3, [1, 2, 3], [])),
+    ("floats", (1024, 0, [], [])),
+    ("floats", (2, 3, [0x3F80, 0x8000, 0x7F80], [0xBF80, 0x0080, 0x3F80, 0x7FC0, 0x0001, 0x0000])),
+    ("floats", (1, 1, [0x7FC0], [0x3F80])),
+    ("floats", (8, 50, spread(50, 65536, 15), spread(400, 65536, 16))),
+    ("floats", (2, 65, [0x3F80] * 65, [0x4000 + j for j in range(130)])),
+    ("floats", (1025, 0, [], [])),
+    ("floats", (1, 65537, [], [])),
 ]
 
 PARAMETERS = {
@@ -55,6 +66,7 @@ PARAMETERS = {
     "sum_of": ["k", "kind", "sums", "a", "b"],
     "short": ["low", "high"],
     "step": ["k", "sums", "a", "b"],
+    "floats": ["rows", "n", "x", "w"],
 }
 
 # These answer sixteen lanes alone, without a number ahead of them.
@@ -80,6 +92,11 @@ def answer_of(name, arguments):
 
 
 class Interface(unittest.TestCase):
+    def test_each_of_the_seven_is_called(self):
+        told = {"bytes_of", "words", "scale", "sum_of", "short", "step", "floats"}
+        self.assertEqual(set(PARAMETERS), told)
+        self.assertEqual({name for name, arguments in CALLS}, told)
+
     def test_parameters(self):
         for name, parameters in PARAMETERS.items():
             found = inspect.signature(getattr(products, name)).parameters

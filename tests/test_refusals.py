@@ -2,7 +2,7 @@
 
 import unittest
 
-from smallproducts.products import bytes_of, words
+from smallproducts.products import bytes_of, floats, words
 
 # The small ones stand first, and the first wrong answer ends a test: rows that
 # are not refused at 4294967295 would be answered with as many numbers.
@@ -25,6 +25,10 @@ class Refusals(unittest.TestCase):
         for rows, n in REFUSED:
             self.assertEqual(words(rows, n, [], []), [-1], (rows, n))
 
+    def test_floats_refused(self):
+        for rows, n in REFUSED:
+            self.assertEqual(floats(rows, n, [], []), [-1], (rows, n))
+
     def test_bytes_no_rows(self):
         for n in (0, 1, 500, 1025, 65536):
             with self.subTest(n=n):
@@ -34,6 +38,11 @@ class Refusals(unittest.TestCase):
         for n in (0, 1, 500, 1025, 65536):
             with self.subTest(n=n):
                 self.assertEqual(words(0, n, [1] * n, []), [0])
+
+    def test_floats_no_rows(self):
+        for n in (0, 1, 500, 1025, 65536):
+            with self.subTest(n=n):
+                self.assertEqual(floats(0, n, [1] * n, []), [0])
 
     def test_bytes_most_rows(self):
         bias = list(range(1024))
@@ -47,6 +56,14 @@ class Refusals(unittest.TestCase):
         told = [0] + [3 * number for number in w]
         self.assertEqual(words(1024, 1, [3], w), told)
 
+    def test_floats_most_rows(self):
+        # assertEqual would look for minutes for what to show of lists this long.
+        for rows in (1, 2, 8, 1023, 1024):
+            self.assertTrue(floats(rows, 0, [], []) == [0] * (1 + rows), rows)
+        w = list(range(0x3F80, 0x3F80 + 1024))
+        told = [0] + [bits * 65536 for bits in w]
+        self.assertTrue(floats(1024, 1, [0x3F80], w) == told)
+
     def test_bytes_most_numbers(self):
         n = 65536
         self.assertEqual(bytes_of(1, n, [255] * n, [127] * n, [0]), [0, 255 * 127 * n])
@@ -55,6 +72,10 @@ class Refusals(unittest.TestCase):
         n = 65536
         self.assertEqual(words(1, n, [32768] * n, [32768] * n), [0, 2**46])
         self.assertEqual(words(1, n, [32768] * n, [32767] * n), [0, 2**64 - 2**46 + 2**31])
+
+    def test_floats_most_numbers(self):
+        n = 65536
+        self.assertEqual(floats(1, n, [0x3F80] * n, [0x3F80] * n), [0, 0x47800000])
 
 
 if __name__ == "__main__":
